@@ -963,7 +963,12 @@ func closureOf(eqs []impl.Eq, more []impl.Term) *closure {
 	for _, e := range eqs {
 		list = append(list, e.A, e.B)
 	}
-	c := &closure{parts: knownParts(append(list, more...), nil)}
+	return closureOn(knownParts(append(list, more...), nil), eqs)
+}
+
+// closureOn is the closure of equations between some of these parts.
+func closureOn(parts []impl.Term, eqs []impl.Eq) *closure {
+	c := &closure{parts: parts}
 	for i := range c.parts {
 		c.label = append(c.label, i)
 	}
