@@ -798,6 +798,25 @@ func TestCaseOk(t *testing.T) {
 	} {
 		checkCase(t, readSig(t, c.sig), readLits(t, c.lits), c.c, c.want)
 	}
+	// A kind that is none, with the fields of each kind.
+	s, lits := readSig(t, mixSig), readLits(t, "not a=a; 1*x < 0; -1*x < 0; x=y")
+	end := eqCase(0, refl(a))
+	for _, good := range []impl.Case{end, sumCase(1, 1, 0, 0), haveCase(given(0), end), partCase(x, y, end, end, end)} {
+		checkCase(t, s, lits, good, true)
+		for _, kind := range append(strangeInts(), -4, -3, -2, -1, 0, 5, 6, 7, 255, 256, 257, 260) {
+			for count := range 5 {
+				bad := good
+				bad.Kind, bad.Kids = kind, slices.Repeat([]impl.Case{end}, count)
+				checkCase(t, s, lits, bad, false)
+				checkCase(t, s, lits, impl.Case{Kind: kind, A: x, B: y, Kids: bad.Kids}, false)
+			}
+		}
+		for count := range 6 {
+			bad := good
+			bad.Kids = slices.Repeat([]impl.Case{end}, count)
+			checkCase(t, s, lits, bad, count == len(good.Kids))
+		}
+	}
 }
 
 // nestLits have all kinds of conflicts, and nested are conflicts of them with so many levels above the last one, where there are so many constraints: each kind stands within each other one, in each place.
@@ -999,12 +1018,12 @@ func TestCaseLimits(t *testing.T) {
 			if count == 0 {
 				continue
 			}
-			first, last := end, end
+			last := end
 			for i := range added {
-				first, last = haveCase(given(0), first), haveCase(given(count+added-2-i), last)
+				last = haveCase(given(count+added-2-i), last)
 			}
-			checkCase(t, s, lits, first, fits)
 			checkCase(t, s, lits, last, fits)
+			checkCase(t, s, lits, haveTower(end, added), fits)
 		}
 	}
 	for _, text := range []string{"1*x < 0; -1*x < 0; 1*x -1*y <= 5", "x=y; 1*x < 0; -1*x < 0", "x=y; x=y; x=y; 1*x < 0; -1*x < 0", "x=y; 1*x < 0; -1*x < 0; x=y; x=y; x=y"} {
@@ -1020,6 +1039,14 @@ func TestCaseLimits(t *testing.T) {
 		checkCase(t, s, lits, eqCase(0, tower(refl(a), levels-1, turned)), levels <= whyDeep)
 		checkCase(t, s, lits, haveCase(tower(given(0), levels-1, turned), eqCase(2, refl(app("b")))), levels <= whyDeep)
 	}
+}
+
+// haveTower is a conflict within so many others that add equation 0 again.
+func haveTower(c impl.Case, levels int) impl.Case {
+	for range levels {
+		c = haveCase(given(0), c)
+	}
+	return c
 }
 
 // sumTower is a conflict of so many levels above the last one, where there are so many constraints, and the two from at on are contradictory. The second case leads on.
@@ -1108,13 +1135,23 @@ func TestCaseOkOfSharedMemory(t *testing.T) {
 	// One conflict stands at a higher and at a lower level; it is too deep only at the lower one.
 	for room := 1; room < caseDeep; room++ {
 		for levels := max(2, caseDeep-room-1); levels <= caseDeep-room+1; levels++ {
-			low := caseBush(levels, end, 2)
-			for _, kids := range [][]impl.Case{{end, low, caseTower(low, room-1, 2, end)}, {end, caseTower(low, room-1, 2, end), low}, {low, end, caseTower(low, room-1, 1, end)}} {
-				c := partCase(app("x"), app("y"), kids...)
-				if got := impl.CaseOk(s, lits, c); got != (levels+room <= caseDeep) {
-					t.Errorf("a conflict of %d levels at %d levels: %v", levels, room, got)
+			for at := range 3 {
+				low := caseBush(levels, end, at)
+				for first, kids := range [][]impl.Case{{end, low, caseTower(low, room-1, 2, end)}, {end, caseTower(low, room-1, 2, end), low}, {low, end, caseTower(low, room-1, 1, end)}} {
+					c := partCase(app("x"), app("y"), kids...)
+					eqs := levels - 1 + first/2
+					want := levels+room <= caseDeep && (at > 0 || eqs <= eqsLimit)
+					if got := impl.CaseOk(s, lits, c); got != want {
+						t.Errorf("a conflict of %d levels, which are in place %d, at %d levels: %v", levels, at, room, got)
+					}
 				}
 			}
+		}
+	}
+	// A great explanation stands in each of a great many places.
+	for _, w := range []impl.Why{whyBush(whyDeep, refl(app("a"))), tower(refl(app("a")), whyDeep-1, turned)} {
+		if !impl.CaseOk(s, lits, caseBush(eqsLimit+1, eqCase(0, w), 0, 1, 2)) || impl.CaseOk(s, lits, caseBush(eqsLimit+1, eqCase(0, turned(w)), 0, 1, 2)) {
+			t.Error("a great explanation in a great many places")
 		}
 	}
 	for i, c := range endlessCases() {
@@ -1143,7 +1180,14 @@ func TestCaseOkOfOnePlace(t *testing.T) {
 	// Where h(a) is less than h(b), or more, there is a conflict; where they are equal, equation 1 is another one.
 	apart := partCase(ha, hb, part, haveCase(cong("h", given(0)), sumCase(0, 0, 1, 0, 1)), haveCase(cong("h", given(0)), sumCase(0, 0, 1, 1, 0)))
 	checkCase(t, s, lits, partCase(x, y, part, apart, apart), false)
-	// With a literal more, that is a conflict as well.
+	// Ten equations are there: with two more of them an explanation derives something, with three it does not.
+	many := append(slices.Repeat(readLits(t, "x=y"), litsLimit-1), readLits(t, "not a=a")...)
+	low := impl.Case{Kind: caseHave, Why: given(0), Kids: []impl.Case{eqCase(litsLimit-1, refl(app("a")))}}
+	for levels, want := range []bool{true, true, false} {
+		c := partCase(x, y, low, haveTower(low, levels), low)
+		checkCase(t, s, many, haveTower(c, 5), want)
+	}
+	// With a literal more, what was refused above is a conflict as well.
 	lits = append(lits, readLits(t, "not t(h(a))=t(h(b))")...)
 	right := slices.Clone(apart.Kids)
 	right[0] = eqCase(3, cong("t", given(1)))
