@@ -241,13 +241,25 @@ func partCases() [][3]string {
 // muchCases have numbers that get too great: in the sums, at first or in each of the three cases, and in the model.
 func muchCases() [][3]string {
 	return [][3]string{
-		{fourSig, "47*w 41*x 43*y 37*z <= 1; -41*w 43*x 37*y -47*z <= 1; 43*w -37*x 47*y 41*z <= 1; -37*w -47*x -41*y -43*z <= 1", "much"},
+		{fourSig, "5*w 6*x 43*y <= 0; -30*w 5*x 6*y 15*z < -1; 41*x -27*y -22*z <= 0", "much"},
 		// In the first case, in the second and in the third one, although others may hold.
 		{mixSig, "-31*x -49*y <= 684; 31*x 48*y < 0", "much"}, {"k 1 1\nx - 1\ny - 1\n", "not x=y; 48*x 31*y <= 0; 2*x -30*y < 859; not k(y)=k(x)", "much"}, {"k 1 1\nx - 1\ny - 1\n", "k(y)=k(x); not k(y)=y; 2*k(x) 1*x 2*y <= 1; 2*k(x) -2*x -2*y < 497", "much"},
 		// Behind numbers that are equal but not linked.
 		{"k 1 1\nx - 1\ny - 1\n", "1*k(x) -1*k(y) < 0; -21*k(x) -34*k(y) -42*x -36*y < 0; 32*k(x) 4*k(y) 25*x -38*y < 0; x=k(x)", "much"},
 		// A sum that is representable in the order of the variables, but not in that of its terms.
 		{fourSig, "not 45*y 46*z <= -455; x=z; 29*x -25*y 10*z <= -606", "much"}, {fourSig, "-32*y <= -455; 40*x <= 522; 27*w -8*x -20*y 3*z < 394; 48*w 39*z < 703", "much"}, {fourSig, "-13*w -18*y <= -353; not -30*w 1*x -48*y < 783; not -4*x < -648; w=w", "much"},
+	}
+}
+
+// TestBothMuchCauses checks that each of muchCases fails where its comment says.
+func TestBothMuchCauses(t *testing.T) {
+	causes := []string{"sums", "part 0 much", "part 1 much", "part 2 much", "have much", "values", "values", "values"}
+	for i, c := range muchCases() {
+		found := map[string]int{}
+		answer := newDecider(readSig(t, c[0]), readLits(t, c[1]), found).answer(nil)
+		if answer != "much" || found[causes[i]] == 0 || found["sums"]+found["values"] != 1 || i == 0 && len(found) != 1 {
+			t.Errorf("%s: %s, %v; want %s", c[1], answer, found, causes[i])
+		}
 	}
 }
 
