@@ -414,19 +414,29 @@ func checkUnits(t *testing.T, c impl.Cnf, put []int) ([]int, bool) {
 	return got, conflict
 }
 
+// negations is the negated literals, in the same order.
+func negations(list []int) []int {
+	var negated []int
+	for _, n := range list {
+		negated = append(negated, -n)
+	}
+	return negated
+}
+
+// isRup is what the document says of CnfRup.
+func isRup(c impl.Cnf, clause []int) bool {
+	if !isCnf(c) || !isClause(clause, c.Many) {
+		return false
+	}
+	_, conflict := propagated(c, negations(clause))
+	return conflict
+}
+
 // checkRup checks CnfRup by the words of the document.
 func checkRup(t *testing.T, c impl.Cnf, clause []int) bool {
 	t.Helper()
-	want := false
-	if isCnf(c) && isClause(clause, c.Many) {
-		var put []int
-		for _, n := range clause {
-			put = append(put, -n)
-		}
-		_, want = propagated(c, put)
-	}
 	got := impl.CnfRup(c, clause)
-	if got != want {
+	if got != isRup(c, clause) {
 		t.Errorf("CnfRup(%.600s, %.200v) = %v", writeCnf(c), clause, got)
 	}
 	return got
@@ -598,10 +608,7 @@ func TestCnfRup(t *testing.T) {
 // checkConsequences is the second half of promise 10: whatever satisfies the clauses and the literals that are put also satisfies the ones that are derived, and nothing does where there is a conflict. The same holds for a clause that is CnfRup. It tells how many truth values there are.
 func checkConsequences(t *testing.T, c impl.Cnf, put []int) int {
 	t.Helper()
-	var negated []int
-	for _, n := range put {
-		negated = append(negated, -n)
-	}
+	negated := negations(put)
 	slices.SortFunc(negated, func(a int, b int) int { return max(a, -a) - max(b, -b) })
 	trail, conflict := impl.CnfUnits(c, put)
 	rup := impl.CnfRup(c, negated)
