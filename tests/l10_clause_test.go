@@ -631,23 +631,28 @@ func checkConsequences(t *testing.T, c impl.Cnf, put []int) int {
 	return count
 }
 
-// TestCnfOfEachList has all lists of at most three clauses of two variables, with all literals that may be put, and all clauses.
-func TestCnfOfEachList(t *testing.T) {
+// twoVariableLists is all lists of at most three clauses of two variables.
+func twoVariableLists() [][][]int {
 	clauses := [][]int{nil}
 	for _, c := range listsOf(2, ints(1, -1, 2, -2)) {
 		if len(c) > 0 && isClause(c, 2) {
 			clauses = append(clauses, c)
 		}
 	}
-	puts := listsOf(2, ints(1, -1, 2, -2))
 	lists := [][][]int{nil}
 	for from := 0; len(lists[from]) < 3; from++ {
 		for _, c := range clauses {
 			lists = append(lists, append(slices.Clone(lists[from]), c))
 		}
 	}
-	if len(clauses) != 9 || len(puts) != 21 || len(lists) != 1+9+81+729 {
-		t.Fatal(len(clauses), len(puts), len(lists))
+	return lists
+}
+
+// TestCnfOfEachList has all lists of at most three clauses of two variables, with all literals that may be put, and all clauses.
+func TestCnfOfEachList(t *testing.T) {
+	puts, lists := listsOf(2, ints(1, -1, 2, -2)), twoVariableLists()
+	if len(puts) != 21 || len(lists) != 1+9+81+729 {
+		t.Fatal(len(puts), len(lists))
 	}
 	for _, list := range lists {
 		c := cnfOf(2, list...)

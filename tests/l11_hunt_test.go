@@ -329,18 +329,7 @@ func TestHuntRunWithMostClauses(t *testing.T) {
 
 // TestHuntOfEachList has all lists of at most three clauses of two variables, and what no log may refute.
 func TestHuntOfEachList(t *testing.T) {
-	clauses := [][]int{nil}
-	for _, c := range listsOf(2, ints(1, -1, 2, -2)) {
-		if len(c) > 0 && isClause(c, 2) {
-			clauses = append(clauses, c)
-		}
-	}
-	logs := [][][]int{nil}
-	for from := 0; len(logs[from]) < 3; from++ {
-		for _, c := range clauses {
-			logs = append(logs, append(slices.Clone(logs[from]), c))
-		}
-	}
+	logs := twoVariableLists()
 	some, none := 0, 0
 	for i, list := range logs {
 		c := cnfOf(2, list...)
